@@ -200,6 +200,18 @@ func readTerm(s string) (term, bool) {
 	return t, true
 }
 
+func readBoth(s, t string) (term, term, bool) {
+	first, ok := readTerm(s)
+	if !ok {
+		return nil, nil, false
+	}
+	second, ok := readTerm(t)
+	if !ok {
+		return nil, nil, false
+	}
+	return first, second, true
+}
+
 // read counts the parentheses around its place, as a text may have more of
 // them than the stack has room for.
 func (r *termReader) read(around int) (term, bool) {
@@ -286,6 +298,15 @@ func normalTerm(t term) (term, int, bool) {
 	return last, count, last.normal()
 }
 
+func readNormal(s string) (term, bool) {
+	t, ok := readTerm(s)
+	if !ok {
+		return nil, false
+	}
+	normal, _, ok := normalTerm(t)
+	return normal, ok
+}
+
 // TermValid reports whether a text is a term.
 func TermValid(s string) bool {
 	_, ok := readTerm(s)
@@ -318,12 +339,8 @@ func TermClosed(s string) bool {
 
 // TermPut returns a term with a term put for a name, and true.
 func TermPut(s string, name string, by string) (string, bool) {
-	t, ok := readTerm(s)
+	t, putIn, ok := readBoth(s, by)
 	if !ok || !nameValid(name) {
-		return "", false
-	}
-	putIn, ok := readTerm(by)
-	if !ok {
 		return "", false
 	}
 	result := t.put(name, putIn)
@@ -377,11 +394,7 @@ func NormalOf(s string) (string, int, bool) {
 
 // ApplyOf returns NormalOf of (M N) for two terms, without the number, and true.
 func ApplyOf(s string, t string) (string, bool) {
-	function, ok := readTerm(s)
-	if !ok {
-		return "", false
-	}
-	argument, ok := readTerm(t)
+	function, argument, ok := readBoth(s, t)
 	if !ok {
 		return "", false
 	}
