@@ -185,16 +185,29 @@ func fits(t term) bool {
 	return t.atoms() <= SizeMax && t.nesting() <= nestingMax
 }
 
-// termReader reads a text from a place on.
-type termReader struct {
+// textReader reads a text from a place on.
+type textReader struct {
 	text string
 	at   int
 }
 
+func (r *textReader) skip(c byte) bool {
+	if r.ended() || r.text[r.at] != c {
+		return false
+	}
+	r.at++
+	return true
+}
+
+func (r *textReader) ended() bool { return r.at == len(r.text) }
+
+// termReader reads terms.
+type termReader struct{ textReader }
+
 func readTerm(s string) (term, bool) {
-	r := &termReader{text: s}
+	r := &termReader{textReader{text: s}}
 	t, ok := r.read(0)
-	if !ok || r.at != len(s) || !fits(t) {
+	if !ok || !r.ended() || !fits(t) {
 		return nil, false
 	}
 	return t, true
@@ -230,14 +243,6 @@ func (r *termReader) read(around int) (term, bool) {
 		return nil, false
 	}
 	return apply(function, argument), true
-}
-
-func (r *termReader) skip(c byte) bool {
-	if r.at == len(r.text) || r.text[r.at] != c {
-		return false
-	}
-	r.at++
-	return true
 }
 
 func (r *termReader) readAtom() (term, bool) {
