@@ -303,6 +303,16 @@ func normalTerm(t term) (term, int, bool) {
 	return last, count, last.normal()
 }
 
+// applyNormal returns the normal term to which (M N) comes, if this is a term.
+func applyNormal(function, argument term) (term, bool) {
+	whole := apply(function, argument)
+	if !fits(whole) {
+		return nil, false
+	}
+	normal, _, ok := normalTerm(whole)
+	return normal, ok
+}
+
 func readNormal(s string) (term, bool) {
 	t, ok := readTerm(s)
 	if !ok {
@@ -403,11 +413,7 @@ func ApplyOf(s string, t string) (string, bool) {
 	if !ok {
 		return "", false
 	}
-	whole := apply(function, argument)
-	if !fits(whole) {
-		return "", false
-	}
-	normal, _, ok := normalTerm(whole)
+	normal, ok := applyNormal(function, argument)
 	if !ok {
 		return "", false
 	}
