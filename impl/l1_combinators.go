@@ -225,6 +225,14 @@ func readBoth(s, t string) (term, term, bool) {
 	return first, second, true
 }
 
+func readClosed(s string) (term, bool) {
+	t, ok := readTerm(s)
+	if !ok || len(namesOf(t)) > 0 {
+		return nil, false
+	}
+	return t, true
+}
+
 // read counts the parentheses around its place, as a text may have more of
 // them than the stack has room for.
 func (r *termReader) read(around int) (term, bool) {
@@ -348,8 +356,8 @@ func TermNames(s string) ([]string, bool) {
 
 // TermClosed reports whether a text is a closed term.
 func TermClosed(s string) bool {
-	t, ok := readTerm(s)
-	return ok && len(namesOf(t)) == 0
+	_, ok := readClosed(s)
+	return ok
 }
 
 // TermPut returns a term with a term put for a name, and true.
