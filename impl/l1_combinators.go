@@ -1,5 +1,7 @@
 package impl
 
+import "strings"
+
 // SizeMax is the greatest number of atoms of a term.
 const SizeMax = 3000
 
@@ -201,6 +203,17 @@ func (r *textReader) skip(c byte) bool {
 
 func (r *textReader) ended() bool { return r.at == len(r.text) }
 
+// readWord reads up to the next parenthesis or space.
+func (r *textReader) readWord() string {
+	rest := r.text[r.at:]
+	n := strings.IndexAny(rest, "() ")
+	if n < 0 {
+		n = len(rest)
+	}
+	r.at += n
+	return rest[:n]
+}
+
 // termReader reads terms.
 type termReader struct{ textReader }
 
@@ -311,14 +324,18 @@ func normalTerm(t term) (term, int, bool) {
 	return last, count, last.normal()
 }
 
-// applyNormal returns the normal term to which (M N) comes, if this is a term.
-func applyNormal(function, argument term) (term, bool) {
-	whole := apply(function, argument)
-	if !fits(whole) {
+// normalFitting returns the normal term of what may be too large for a term.
+func normalFitting(t term) (term, bool) {
+	if !fits(t) {
 		return nil, false
 	}
-	normal, _, ok := normalTerm(whole)
+	normal, _, ok := normalTerm(t)
 	return normal, ok
+}
+
+// applyNormal returns the normal term to which (M N) comes, if this is a term.
+func applyNormal(function, argument term) (term, bool) {
+	return normalFitting(apply(function, argument))
 }
 
 func readNormal(s string) (term, bool) {
