@@ -190,6 +190,9 @@ var (
 
 // realized follows the rules of what realizes a formula along texts.
 func (l *logic) realized(r string, n numbers) bool {
+	if !impl.TermValid(r) {
+		return false
+	}
 	if l.simple() {
 		tests, ok := l.tests(n)
 		normal, _, isNormal := impl.NormalOf(r)
@@ -1074,10 +1077,35 @@ func TestRealizeIsLimits(t *testing.T) {
 			t.Errorf("RealizeIs returns %t for %d steps behind what it is applied to", !want, steps+1)
 		}
 	}
-	// Nothing is asked of what is too large for a term here.
-	for _, s := range []string{"(imp bot bot)", "(and (imp bot bot) (imp bot bot))", "(all x 3 (imp (eq x 3) bot))", "(imp top (imp bot bot))", "(all x 2 (and (imp bot bot) (imp top (imp bot top))))"} {
-		if r := flat(3000, "k"); !impl.RealizeIs(r, s) || impl.RealizeIs(r+" ", s) || impl.RealizeIs(flat(3001, "k"), s) {
-			t.Errorf("RealizeIs does not hold for %q and a term of as many atoms as there may be", s)
+}
+
+// What is no term realizes nothing, even where no step is taken: of each
+// formula the largest term that realizes it is told by its atoms.
+func TestRealizeIsTerms(t *testing.T) {
+	for s, most := range map[string]int{
+		"(imp bot bot)": 3000, "(imp bot top)": 3000, "(imp bot (imp top (all x 6 top)))": 3000, "(imp (eq 1 2) (and (imp bot top) top))": 3000,
+		"(all x 1 (imp bot top))": 2997, "(all x 2 (imp bot top))": 2986, "(all x 3 (imp (eq x 3) bot))": 2975, "(all x 1 (all y 1 (imp bot top)))": 2994, "(all x 1 (all y 2 (imp bot top)))": 2983,
+		"(imp top (imp bot top))": 2997, "(imp (eq 1 1) (imp bot bot))": 2997, "(imp top (imp top (imp bot top)))": 2994, "(imp top (all x 1 (imp bot top)))": 2994, "(imp (or top bot) (imp bot top))": 2989, "(imp (or bot top) (imp bot top))": 2986, "(imp (or top top) (imp bot top))": 2986,
+		"(and (imp bot top) (imp bot top))": 2991, "(and (imp bot bot) (and (imp bot bot) (imp bot top)))": 2982, "(and (and (imp bot bot) (imp bot top)) (imp bot bot))": 2985, "(and (imp bot top) (imp top (imp bot top)))": 2988, "(and (imp top (imp bot top)) (imp bot top))": 2991, "(and (all x 2 (imp bot top)) (imp bot top))": 2980,
+		"(all x 2 (and (imp bot bot) (imp top (imp bot top))))": 2974,
+	} {
+		for _, atoms := range []int{1, 1000, most - 1, most, most + 1, 3000, 3001} {
+			if want := atoms <= most; impl.RealizeIs(flat(atoms, "k"), s) != want {
+				t.Errorf("RealizeIs returns %t for %q and a term of %d atoms", !want, s, atoms)
+			}
+		}
+		if impl.RealizeIs(flat(1000, "k")+" ", s) || impl.RealizeIs(flat(1000, "x"), s) {
+			t.Errorf("RealizeIs holds for %q and what is no closed term", s)
+		}
+	}
+	for s, most := range map[string]int{
+		"(imp bot bot)": 1500, "(all x 1 (imp bot top))": 1499, "(all x 6 (imp bot top))": 1499, "(imp top (imp bot top))": 1499, "(imp top (imp top (imp bot top)))": 1498, "(and (imp bot top) (imp bot top))": 1499, "(and (imp bot bot) (and (imp bot bot) (imp bot top)))": 1498, "(and (and (imp bot bot) (imp bot top)) (imp bot bot))": 1498,
+	} {
+		for depth := most - 2; depth <= 1502; depth++ {
+			r := strings.Repeat("(k ", depth) + "k" + strings.Repeat(")", depth)
+			if want := depth <= most; impl.RealizeIs(r, s) != want {
+				t.Errorf("RealizeIs returns %t for %q and %d parentheses within each other", !want, s, depth)
+			}
 		}
 	}
 }
