@@ -95,14 +95,19 @@ func (l *logic) simple() bool {
 }
 
 // put changes the words of the names that are not bound.
-func (l *logic) put(name string, n int, bound ...string) *logic {
+func (l *logic) put(name string, n int) *logic {
+	return l.putInstead(name, word(strconv.Itoa(n)))
+}
+
+// putInstead puts a number or a name.
+func (l *logic) putInstead(name string, by *logic, bound ...string) *logic {
 	if l.isName() && l.word == name && !slices.Contains(bound, name) {
-		return word(strconv.Itoa(n))
+		return by
 	}
 	changed := *l
 	changed.parts = nil
 	for _, part := range l.parts {
-		changed.parts = append(changed.parts, part.put(name, n, append([]string{l.name}, bound...)...))
+		changed.parts = append(changed.parts, part.putInstead(name, by, append([]string{l.name}, bound...)...))
 	}
 	return &changed
 }
