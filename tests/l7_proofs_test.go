@@ -158,10 +158,11 @@ func (at place) mayBind(name string) bool {
 	return at.names[name] == 0 && !slices.ContainsFunc(at.hypotheses, func(h assumption) bool { return slices.Contains(h.formula.free(), name) })
 }
 
-// always reports whether an equality holds for all values of its names.
+// always reports whether an equality holds for all values of the names around,
+// of which there are at most 300.
 func (at place) always(f *logic) bool {
 	values := []numbers{nil}
-	for _, name := range slices.Compact(slices.Sorted(slices.Values(f.free()))) {
+	for name := range at.names {
 		var more []numbers
 		for _, n := range values {
 			for i := range at.names[name] {
@@ -815,12 +816,20 @@ func TestProofLimits(t *testing.T) {
 	}
 }
 
-// Of the names of calc there are at most 300 values; other names around do not count.
+// Around calc there are names with at most 300 values, whether or not they are in its expressions.
 func TestProofValues(t *testing.T) {
 	within := func(limits, calc string) string {
 		text := calc
 		for i, digit := range slices.Backward([]byte(limits)) {
 			text = "(inst (gen x" + strconv.Itoa(i) + " " + string(digit) + " " + text + ") 0)"
+		}
+		return text
+	}
+	opened := func(limits, calc string) string {
+		text := calc
+		for i, digit := range slices.Backward([]byte(limits)) {
+			name := "x" + strconv.Itoa(i)
+			text = "(open (wit 0 " + name + " " + string(digit) + " top triv) " + name + " a " + text + ")"
 		}
 		return text
 	}
@@ -833,8 +842,14 @@ func TestProofValues(t *testing.T) {
 	}
 	all := "(calc " + sum("x0", "x1", "x2", "x3") + " " + sum("x3", "x2", "x1", "x0") + ")"
 	for s, proves := range map[string]bool{
-		within("6552", all): true, within("5562", all): true, within("5543", all): true, within("6661", all): true, within("6651", all): true, within("6663", all): false, within("6662", all): false, within("6633", all): false, within("5454", all): false, within("4454", all): false, within("6666", all): false, within("5552", all): true, within("5553", all): false, within("66662", "(calc x0 (add x0 (mul x4 0)))"): true,
-		within("6666", "(calc x3 x3)"): true, within("6666", "(calc "+sum("x0", "x1", "x2")+" "+sum("x2", "x1", "x0")+")"): true, within("66666", "(calc 1 1)"): true, within("66666", "(calc 1 2)"): false, within("666666", "(calc (mul x0 x5) (mul x5 x0))"): true, within("6662", "(calc "+sum("x0", "x1", "x2")+" "+sum("x2", "x1", "x3")+")"): false, within("66", "(calc "+sum("x0", "x1")+" "+sum("x1", "x1")+")"): false,
+		within("6552", all): true, within("5562", all): true, within("5543", all): true, within("6661", all): true, within("6651", all): true, within("6663", all): false, within("6662", all): false, within("6633", all): false, within("5454", all): false, within("4454", all): false, within("6666", all): false, within("5552", all): true, within("5553", all): false, within("5552", "(calc x0 (add x0 (mul x3 0)))"): true,
+		within("6652", "(calc 0 0)"): false, within("6552", "(calc 0 0)"): true, within("6552", "(calc 0 1)"): false, within("6662", "(calc 0 0)"): false, within("6661", "(calc 0 0)"): true, within("6662", "(calc x3 x3)"): false, within("6661", "(calc x0 x0)"): true, within("2666", "(calc 1 1)"): false, within("11666111", "(calc 1 1)"): true, within("11666112", "(calc 1 1)"): false, within("21666111", "(calc 1 1)"): false, within("65521111", "(calc x7 0)"): true, within("65521112", "(calc 7 7)"): false,
+		within("6666", "(calc x3 x3)"): false, within("666", "(calc "+sum("x0", "x1", "x2")+" "+sum("x2", "x1", "x0")+")"): true, within("6662", "(calc "+sum("x0", "x1", "x2")+" "+sum("x2", "x1", "x0")+")"): false, within("666661", "(calc (mul x0 x5) (mul x5 x0))"): false, within("661111", "(calc (mul x0 x5) (mul x5 x0))"): true, within("6552", "(calc "+sum("x0", "x1", "x2")+" "+sum("x2", "x1", "x3")+")"): false, within("66", "(calc "+sum("x0", "x1")+" "+sum("x1", "x1")+")"): false,
+		// More values than there are numbers of the program.
+		within(strings.Repeat("6", 22), "(calc 0 0)"): false, within(strings.Repeat("4", 23), "(calc 0 0)"): false, within(strings.Repeat("2", 8), "(calc 0 0)"): true, within(strings.Repeat("2", 9), "(calc 0 0)"): false, within(strings.Repeat("1", 23), "(calc 0 0)"): true, exOf("gen", strings.Repeat("4", 32), "(calc 0 0)"): false, within("6662", "triv"): true,
+		// Names that open binds count, too; those of other parts, of wit and of formulas do not.
+		opened("666", "(calc 0 0)"): true, opened("6662", "(calc 0 0)"): false, opened("6661", "(calc 0 0)"): true, opened("5562", "(calc 0 0)"): true, opened("5562", "(calc 0 1)"): false, opened("4454", "(calc x0 x0)"): false, "(gen y 6 " + opened("552", "(calc y y)") + ")": true, "(gen y 6 " + opened("652", "(calc y y)") + ")": false, "(gen y 6 " + opened("666", "(calc y y)") + ")": false,
+		"(pair " + within("666", "(calc 0 0)") + " " + within("662", "(calc 1 1)") + ")": true, within("666", "(wit 0 y 6 (eq 0 0) (calc 0 0))"): true, within("6662", "(wit 0 y 1 (eq 0 0) (calc 0 0))"): false, "(fst (pair (calc 0 0) " + within("6666", "triv") + "))": true, within("666", "(snd (pair (lam a "+exOf("ex", "666", "top")+" a) (calc 0 0)))"): true, "(inst (gen y 6 (snd (pair (lam a " + exOf("ex", "552", "top") + " a) (calc 0 0)))) 0)": true, within("666", "(fst (pair (calc 0 0) (inst (gen y 6 triv) 0)))"): true, within("666", "(fst (pair triv (inst (gen y 6 (calc 0 0)) 0)))"): false, within("66", "(app (lam a (eq 0 0) (inst (gen y 6 (inst (gen z 6 a) 0)) 0)) (calc 0 0))"): true, within("66", "(app (lam a (eq 0 0) (inst (gen y 6 (inst (gen z 6 (calc 0 0)) 0)) 0)) (calc 0 0))"): false,
 		// Only the greatest numbers make a difference.
 		"(gen x 6 (calc (mul x (mul (mul 20 50) 40)) (mul x (mul (mul 20 50) 40))))": true, "(gen x 6 (gen y 6 (calc (mul x y) (mul y x))))": true, "(gen x 5 (wit x y 5 (eq (mul x y) (mul x x)) (calc (mul x x) (mul x x))))": true, "(gen x 5 (calc (mul x (add x 55)) (mul x 59)))": false, "(gen x 6 (calc (mul (mul 58 58) (mul (mul x 58) 58)) (mul (mul 58 58) (mul x (mul 58 58)))))": true, "(gen x 2 (calc (add (mul x 60) (mul (mul 60 60) (mul 60 60))) (mul (mul 60 60) (mul 60 60))))": true, "(gen x 2 (calc (add (mul x 60) (mul (mul 60 60) 60)) (mul (mul 60 60) 60)))": false,
 	} {
